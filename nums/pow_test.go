@@ -99,10 +99,22 @@ func TestRemAll(t *testing.T) {
 	}
 }
 
+// powCase is a power that the document tells.
+type powCase struct{ a, b, power float64 }
+
+func holdPow(t *testing.T, l []powCase) {
+	t.Helper()
+	for _, c := range l {
+		if x := nums.Pow(c.a, c.b); !alike(x, c.power) {
+			t.Errorf("Pow(%v, %v): %v, not %v", c.a, c.b, x, c.power)
+		}
+	}
+}
+
 // P2.5, in the order of its choices
 func TestPow(t *testing.T) {
 	tiny := math.SmallestNonzeroFloat64
-	for _, c := range []struct{ a, b, power float64 }{
+	holdPow(t, []powCase{
 		{1, nan, nan},
 		{0, nan, nan},
 		{nan, nan, nan},
@@ -192,17 +204,13 @@ func TestPow(t *testing.T) {
 		{tiny, -1, inf},
 		{math.MaxFloat64, 2, inf},
 		{math.MaxFloat64, -2, 0},
-	} {
-		if x := nums.Pow(c.a, c.b); !alike(x, c.power) {
-			t.Errorf("Pow(%v, %v): %v, not %v", c.a, c.b, x, c.power)
-		}
-	}
+	})
 }
 
 // P2.5: whole powers whose size is above 1024
 func TestPowFar(t *testing.T) {
 	near := 1 + 0x1p-52
-	for _, c := range []struct{ a, b, power float64 }{
+	holdPow(t, []powCase{
 		{near, 1024, nums.Pow(near, 512) * nums.Pow(near, 512)},
 		{near, 1025, inf},
 		{near, -1025, 0},
@@ -247,11 +255,7 @@ func TestPowFar(t *testing.T) {
 		{-1, 9007199254740991, -1},
 		{-1, 1e300, 1},
 		{-1, -math.MaxFloat64, 1},
-	} {
-		if x := nums.Pow(c.a, c.b); !alike(x, c.power) {
-			t.Errorf("Pow(%v, %v): %v, not %v", c.a, c.b, x, c.power)
-		}
-	}
+	})
 }
 
 // power is an oracle for P2.5: a to n, by the bits of n without its lowest, then that one.
@@ -269,7 +273,7 @@ func power(a float64, n int) float64 {
 
 // P2.5: each product is rounded, from the highest bit on
 func TestPowRounded(t *testing.T) {
-	for _, c := range []struct{ a, b, power float64 }{
+	holdPow(t, []powCase{
 		{1.1, 10, 2.593742460100002},
 		{1.1, 13, 3.4522712143931047},
 		{1.1, -13, 0.2896643797366876},
@@ -284,11 +288,7 @@ func TestPowRounded(t *testing.T) {
 		{10, -308, 1.0000000000000004e-308},
 		{7, 40, 6.366805760909027e+33},
 		{1.7, 511, 5.746439309459639e+117},
-	} {
-		if x := nums.Pow(c.a, c.b); !alike(x, c.power) {
-			t.Errorf("Pow(%v, %v): %x, not %x", c.a, c.b, x, c.power)
-		}
-	}
+	})
 	for _, a := range edges() {
 		if a != a {
 			continue
