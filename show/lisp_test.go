@@ -111,7 +111,7 @@ func quoteBy(s api.Str) string {
 	return `"` + out + `"`
 }
 
-// lispBy is an oracle for Lisp, from node n on; at: with places.
+// lispBy is an oracle for Lisp, from node n on.
 func lispBy(l []api.Node, n int) string {
 	parts := []string{fmt.Sprint(l[n].Kind)}
 	if l[n].Text != "" {
